@@ -1,14 +1,16 @@
 package solve
 
 import (
+	"slices"
+
 	"weephole/api"
 )
 
 const (
 	// deepest is how many reasons behind each other are looked at to find out whether a literal is needed.
 	deepest = 500
-	// patience is how many conflicts that are too long for a proof are evaded.
-	patience = 1000
+	// firstPatience is how many conflicts are evaded, at first, before something is learned from one that is too long for a proof.
+	firstPatience = 100
 )
 
 // mark is what is known of a variable while a clause is learned.
@@ -24,25 +26,30 @@ const (
 // lessons is what was learned from conflicts.
 type lessons struct {
 	proof    [][]int
-	evaded   int       // how many conflicts were evaded
-	activity []int     // for each variable: its activity in the heap
-	growth   int       // by how much activities grow
-	marks    []mark    // for each variable
-	marked   []literal // a literal of each variable that is not unseen
-	draft    []literal // room for a clause
+	beyond   [][]literal // what was learned since the first clause that is too long for a proof, with this one
+	evaded   int         // how many conflicts were evaded
+	patience int         // how many are
+	longest  int         // how many literals a clause of a proof may have
+	activity []int       // for each variable: its activity in the heap
+	growth   int         // by how much activities grow
+	marks    []mark      // for each variable
+	marked   []literal   // a literal of each variable that is not unseen
+	draft    []literal   // room for a clause
 }
 
 // noLessons returns what was learned about the variables 1 to n before the first conflict.
 func noLessons(n int) lessons {
 	return lessons{
+		patience: firstPatience,
+		longest:  api.MaxClause,
 		activity: make([]int, n+1),
 		growth:   firstGrowth,
 		marks:    make([]mark, n+1),
 	}
 }
 
-// learn learns a clause from a conflict that is not at the level 0, and takes back decisions until one of its literals is no longer false. This one follows then.
-func (s *solver) learn(conflict ref) {
+// lesson returns a clause that follows from a conflict that is not at the level 0. All of its literals are false, but only the first one since the last decision.
+func (s *solver) lesson(conflict ref) []literal {
 	c := s.cut(conflict)
 	s.grow(s.marked)
 	c = s.shorten(c)
@@ -50,13 +57,14 @@ func (s *solver) learn(conflict ref) {
 	// The variables of the clause grow once more. If all that have to do with each conflict grew alike, the order of the decisions would stay the same, and so would the way of the search.
 	s.grow(c)
 	s.age()
-	if len(c) > api.MaxClause {
+	if len(c) > s.longest {
 		c = s.decided(c)
 	}
-	if len(c) > api.MaxClause && s.evaded < patience {
-		s.evade(c)
-		return
-	}
+	return c
+}
+
+// learn learns the clause that follows from a conflict, and takes back decisions until one of its literals is no longer false. This one follows then.
+func (s *solver) learn(c []literal) {
 	s.write(c)
 	glue := s.glue(c)
 	s.back(s.second(c))
@@ -67,7 +75,7 @@ func (s *solver) learn(conflict ref) {
 	s.assign(c[0], reason)
 }
 
-// cut returns a clause that follows from a conflict. All of its literals are false, but only the first one since the last decision. It is found by replacing literals of the conflict by the reasons for which they are false, the last ones first.
+// cut finds the clause of a lesson by replacing literals of the conflict by the reasons for which they are false, the last ones first.
 func (s *solver) cut(conflict ref) []literal {
 	c := append(s.draft[:0], 0)
 	open := 0 // how many literals since the last decision are still to be replaced
@@ -168,20 +176,23 @@ func (s *solver) decided(c []literal) []literal {
 	return list
 }
 
-// evade goes out of the way of a conflict with more decisions than a clause of a proof may have literals. Nothing is learned from it, because what depends on a clause that is too long could not be in the proof either. In place of some of these decisions their negatives come next, which most often shows how fewer decisions conflict: of every second one of them, the next time of every third one, and so on, so that not the same conflicts take turns.
+// evade goes out of the way of a conflict with more decisions than a clause of a proof may have literals. Nothing is learned from it, because what depends on a clause that is too long could not be in the proof either. In place of some of these decisions their negatives come next, which most often shows how fewer decisions conflict. Which ones changes each time, so that not the same conflicts take turns.
 func (s *solver) evade(c []literal) {
 	s.evaded++
 	s.back(0)
-	for i := 0; i < len(c); i += 1 + s.evaded {
+	step := 2 + s.evaded%31
+	for i := s.evaded / 31 % step; i < len(c); i += step {
 		s.last[c[i].variable()] = c[i]
 	}
 }
 
-// write adds a clause to the proof, unless it is too long for any.
+// write adds a clause to the proof, unless it is too long for any, or may depend on one that is.
 func (s *solver) write(c []literal) {
-	if len(c) <= api.MaxClause {
+	if len(c) <= s.longest && len(s.beyond) == 0 {
 		s.proof = append(s.proof, numbersOf(c))
+		return
 	}
+	s.beyond = append(s.beyond, slices.Clone(c))
 }
 
 // glue returns of how many levels the literals of a clause are.

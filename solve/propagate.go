@@ -50,11 +50,16 @@ func (s *solver) move(w *watch, l literal) bool {
 	if s.value[w.other] == isTrue {
 		return false
 	}
-	for k, x := range c[2:] {
-		if s.value[x] != isFalse {
-			c[0], c[1], c[k+2] = w.other, x, l
+	// A long clause takes too long to go through again and again from its beginning, where most literals will be false.
+	found := s.found(w.clause)
+	for range c[2:] {
+		if x := c[*found]; s.value[x] != isFalse {
+			c[0], c[1], c[*found] = w.other, x, l
 			s.watches[x] = append(s.watches[x], *w)
 			return true
+		}
+		if *found++; int(*found) == len(c) {
+			*found = 2
 		}
 	}
 	return false

@@ -568,8 +568,7 @@ func TestLargestFormulas(t *testing.T) {
 // searched returns the solver of a formula after a search without a budget, and fails the test if the result is not what P7.1 says.
 func searched(t *testing.T, f api.Formula) (*solver, uint8) {
 	t.Helper()
-	s := start(f)
-	a := s.search(0)
+	s, a := start(f).find(f, 0)
 	show(t, f, s.result(a), 0)
 	return s, a
 }
@@ -701,29 +700,148 @@ func TestLongClausesOfFormulasWithAModel(t *testing.T) {
 	}
 }
 
-// Answers, and the clauses of proofs, are right also when no conflict is evaded any more.
+// patterns returns a formula without a model in which each of the given number of conflicts that are evaded leads to the next one, if the first n variables get their values first; then there is one with the last of these true, and one with it false. All of them have n decisions. What is left follows from four short clauses.
+func patterns(n, evaded int) api.Formula {
+	is := to(1, n) // the pattern, as a clause that does not hold in it
+	f := formula(n)
+	exclude := func() {
+		f.Vars++
+		half := n / 2
+		f = with(f,
+			append(slices.Concat(is[:half], is[n-1:]), f.Vars),
+			append(slices.Concat(is[half:n-1], is[n-1:]), -f.Vars))
+	}
+	for e := 1; e <= evaded; e++ {
+		exclude()
+		step := 2 + e%31
+		for i := e / 31 % step; i < n; i += step {
+			is[n-1-i] *= -1
+		}
+	}
+	exclude()
+	is[n-1] *= -1
+	exclude()
+	f.Vars += 3
+	for _, x := range is[:n-1] {
+		f.Clauses = append(f.Clauses, []int{-f.Vars, -x})
+	}
+	return with(f, refuted(f.Vars-1, f.Vars-2, f.Vars)...)
+}
+
+func TestPatterns(t *testing.T) {
+	for _, n := range []int{50, api.MaxClause - 1, api.MaxClause, api.MaxClause + 1, 2*api.MaxClause - 4} {
+		for _, evaded := range []int{0, 1, firstPatience - 1, firstPatience, firstPatience + 1, 3 * firstPatience, 1000} {
+			f := patterns(n, evaded)
+			s, a := searched(t, f)
+			if a != api.Unsat {
+				t.Errorf("%d variables, %d patterns: the answer is %d", n, evaded, a)
+			}
+			if n > api.MaxClause && s.evaded != min(evaded+1, firstPatience) {
+				t.Errorf("the formula of %d variables and %d patterns says too little: %d conflicts are evaded", n, evaded, s.evaded)
+			}
+			f.Clauses = f.Clauses[:len(f.Clauses)-1]
+			want(t, f, api.Sat)
+		}
+	}
+	f := patterns(4100, firstPatience)
+	r := solved(t, f, 0)
+	if n, e := rup.Check(f, r.Proof...); n != -1 || e != api.OK || r.Answer != api.Unsat {
+		t.Errorf("rup.Check of a proof of %d clauses: %d, %d", len(r.Proof), n, e)
+	}
+}
+
+// impatient returns the solver of a formula which evades fewer conflicts, and for which the clauses of a proof have fewer literals.
+func impatient(f api.Formula, patience, longest int) *solver {
+	s := start(f)
+	s.patience, s.longest = patience, longest
+	return s
+}
+
+// within fails the test unless the clauses of a proof have at most so many literals.
+func within(t *testing.T, longest int, proof [][]int) {
+	t.Helper()
+	for _, c := range proof {
+		if len(c) > longest {
+			t.Fatalf("a clause of the proof has %d literals", len(c))
+		}
+	}
+}
+
+// Answers and proofs are right also when no conflict is evaded.
 func TestWithoutPatience(t *testing.T) {
-	for i, f := range decisions(5000) {
-		s := start(f)
-		s.evaded = patience
+	list := append(decisions(5000), blocks(5000), patterns(5000, 0), patterns(5000, 30))
+	beyond := 0
+	for i, f := range list {
+		s := impatient(f, 0, api.MaxClause)
 		if a := s.search(0); a != api.Unsat {
 			t.Errorf("the formula %d: the answer is %d", i, a)
 		}
-		for _, c := range s.proof {
-			if len(c) > api.MaxClause {
-				t.Errorf("the formula %d: a clause of the proof has %d literals", i, len(c))
-			}
+		within(t, api.MaxClause, s.proof)
+		beyond += min(1, len(s.beyond))
+		s, a := impatient(f, 0, api.MaxClause).find(f, 0)
+		show(t, f, s.result(a), 0)
+		if a != api.Unsat {
+			t.Errorf("the formula %d: the answer is %d at last", i, a)
 		}
-		if i == 3 {
-			continue
-		}
+	}
+	if beyond < 4 {
+		t.Error("the formulas say too little: clauses that are too long are learned for only", beyond)
+	}
+	for i, f := range decisions(5000)[:3] {
 		f.Clauses = f.Clauses[:len(f.Clauses)-1]
-		s = start(f)
-		s.evaded = patience
-		a := s.search(0)
+		s, a := impatient(f, 0, api.MaxClause).find(f, 0)
 		show(t, f, s.result(a), 0)
 		if a != api.Sat {
 			t.Errorf("the formula %d without its last clause: the answer is %d", i, a)
+		}
+	}
+}
+
+// If the clauses of proofs had to be much shorter, what is done about clauses that are too long would be done for formulas of all kinds.
+func TestShortProofs(t *testing.T) {
+	r := rand.New(rand.NewSource(89))
+	count := [4]int{} // how often there were so many solvers, or more
+	for i := range 1500 {
+		longest := 2 + i%4
+		vars := 8 + r.Intn(10*longest)
+		f := threes(r, vars, vars*(45+r.Intn(10))/10)
+		s := impatient(f, r.Intn(3), longest)
+		a := s.search(0)
+		n := 0
+		for ; a == api.Unsat && len(s.beyond) > 0; n++ {
+			s, a = s.again(f, 0)
+		}
+		show(t, f, s.result(a), 20)
+		within(t, longest, s.proof)
+		if a == api.Unknown {
+			t.Fatal("Unknown without a budget")
+		}
+		if a == api.Unsat {
+			count[min(n, 3)]++
+		}
+		last, b := impatient(f, 1, longest).find(f, 0)
+		show(t, f, last.result(b), 20)
+		if a != b {
+			t.Fatal("the answers are", a, "and", b)
+		}
+	}
+	if slices.Min(count[:]) < 20 {
+		t.Error("the formulas say too little: more solvers are needed", count)
+	}
+}
+
+func TestShortProofsOfHardFormulas(t *testing.T) {
+	r := rand.New(rand.NewSource(90))
+	for i, f := range []api.Formula{threes(r, 120, 550), threes(r, 150, 680), pigeons(6), parities(r, 12, false)} {
+		for _, longest := range []int{9, 12} {
+			for _, patience := range []int{0, 10} {
+				s, a := impatient(f, patience, longest).find(f, 0)
+				show(t, f, s.result(a), 0)
+				within(t, longest, s.proof)
+				if a != api.Unsat {
+					t.Errorf("the formula %d: the answer is %d", i, a)
+				}
+			}
 		}
 	}
 }
@@ -737,8 +855,7 @@ func TestUnknown(t *testing.T) {
 		vars := 10 + i%60
 		f := threes(r, vars, vars*45/10)
 		for _, budget := range []int{1, 2, 3, 5, 10, 30, 100, 1000} {
-			s := start(f)
-			a := s.search(budget)
+			s, a := start(f).find(f, budget)
 			show(t, f, s.result(a), 0)
 			if a == api.Unknown && s.conflicts < budget {
 				t.Fatalf("after %d conflicts with the budget %d the answer is Unknown", s.conflicts, budget)
@@ -751,6 +868,40 @@ func TestUnknown(t *testing.T) {
 	}
 	if slices.Min(count[:]) < 300 {
 		t.Error("the formulas say too little: the answers are", count)
+	}
+}
+
+func TestUnknownOnTheWayToAShortProof(t *testing.T) {
+	r := rand.New(rand.NewSource(91))
+	later := 0
+	for range 300 {
+		vars := 15 + r.Intn(30)
+		f := threes(r, vars, vars*5)
+		first := impatient(f, 1, 4)
+		if a := first.search(0); a == api.Sat {
+			continue
+		}
+		last, all := impatient(f, 1, 4).find(f, 0)
+		for budget := 1; budget <= last.conflicts+1; budget += 1 + r.Intn(4) {
+			s, a := impatient(f, 1, 4).find(f, budget)
+			show(t, f, s.result(a), 0)
+			switch {
+			case a == api.Unknown && s.conflicts < budget:
+				t.Fatalf("after %d conflicts with the budget %d the answer is Unknown", s.conflicts, budget)
+			case a == api.Unknown && budget > first.conflicts:
+				later++
+			case a != api.Unknown && a != all:
+				t.Fatalf("with the budget %d the answer is %d", budget, a)
+			case a != api.Unknown && s.conflicts > budget:
+				t.Fatalf("with the budget %d there are %d conflicts", budget, s.conflicts)
+			}
+		}
+		if s, a := impatient(f, 1, 4).find(f, last.conflicts+1); a != all || s.conflicts != last.conflicts {
+			t.Fatalf("with one conflict more than needed the answer is %d", a)
+		}
+	}
+	if later < 100 {
+		t.Error("the formulas say too little: Unknown after the first search are only", later)
 	}
 }
 
@@ -1097,5 +1248,139 @@ func TestForget(t *testing.T) {
 	want := [][]int{{0, 1, 2, 3}, {2, 1, 2, 3, 4}, {3, 1, 2, 5}, {3, 1, 2, 6, 7}, {3, 1, 2}}
 	if !slices.EqualFunc(got, want, slices.Equal[[]int]) {
 		t.Error("the clauses are", got)
+	}
+}
+
+func TestAdmit(t *testing.T) {
+	s := start(formula(6, []int{-1}, []int{2}))
+	s.propagate()
+	s.admit(literalsOf([]int{1, 3, -2, 4}))
+	s.admit(literalsOf([]int{5, 2}))
+	s.admit(literalsOf([]int{1, 6}))
+	if len(s.proof) != 3 || !slices.Equal(s.proof[0], []int{1, 3, -2, 4}) {
+		t.Error("the proof is", s.proof)
+	}
+	if !slices.Equal(numbersOf(s.trail), []int{-1, 2, 6}) || s.propagate() != none || s.absurd {
+		t.Error("without decisions there hold", numbersOf(s.trail))
+	}
+	s.levels = append(s.levels, level{start: len(s.trail)})
+	s.assign(literalOf(-3), none)
+	if s.propagate() != none || !slices.Equal(numbersOf(s.trail), []int{-1, 2, 6, -3, 4}) {
+		t.Error("with -3 there hold", numbersOf(s.trail))
+	}
+	s.back(0)
+	s.admit(literalsOf([]int{-6, 1}))
+	if !s.absurd {
+		t.Error("a clause that is false is no conflict")
+	}
+}
+
+func TestImplies(t *testing.T) {
+	count := [2]int{}
+	both(t, 92, 1000, func(r *rand.Rand, f api.Formula, _ uint8) {
+		s := start(f)
+		if s.absurd || s.propagate() != none {
+			return
+		}
+		for range 10 {
+			c := clauseOf(r, f.Vars, r.Intn(4))
+			is, _ := rup.Implied(f, c...)
+			if got := s.implies(literalsOf(c)); got != is {
+				t.Fatalf("whether %d implies %d: %v", f, c, got)
+			}
+			if is {
+				count[1]++
+			} else {
+				count[0]++
+			}
+		}
+	})
+	if slices.Min(count[:]) < 500 {
+		t.Error("the formulas say too little: clauses are implied, or not,", count)
+	}
+}
+
+func TestTake(t *testing.T) {
+	f := formula(6, []int{1, 2}, []int{1, -2}, []int{-1, -3, 4}, []int{-3, -4, 5}, []int{5, 6, 2}, []int{5, 6, -2})
+	s := start(f)
+	s.proof = [][]int{{1}}
+	s.beyond = [][]literal{literalsOf([]int{1, 2, 3}), literalsOf([]int{-3, 5}), literalsOf([]int{6}), literalsOf([]int{5, 6})}
+	s.longest = 2
+	to := impatient(f, 0, 2)
+	guides := to.take(s)
+	if len(guides) != 2 || !slices.Equal(numbersOf(guides[0]), []int{1, 2, 3}) || !slices.Equal(numbersOf(guides[1]), []int{6}) {
+		t.Error("the guides are", guides)
+	}
+	if !slices.EqualFunc(to.proof, [][]int{{1}, {-3, 5}, {5, 6}}, slices.Equal[[]int]) {
+		t.Error("the proof is", to.proof)
+	}
+	// If there is a conflict before the last one of the clauses, the others no longer matter.
+	f = with(f, []int{-1, 6}, []int{-1, -6})
+	to = impatient(f, 0, 2)
+	guides = to.take(s)
+	if a, arrived := to.follow(guides, 0); a != api.Unsat || !arrived || len(guides) > 0 {
+		t.Error("after a conflict the answer is", a, arrived, "with the guides", guides)
+	}
+	show(t, f, to.result(api.Unsat), 9)
+}
+
+func TestFollow(t *testing.T) {
+	r := rand.New(rand.NewSource(93))
+	count := [2]int{}
+	for i := range 400 {
+		longest := 3 + i%2
+		vars := 10 + r.Intn(10*longest)
+		f := threes(r, vars, vars*5)
+		s := impatient(f, 0, longest)
+		if a := s.search(0); a != api.Unsat || len(s.beyond) == 0 {
+			continue
+		}
+		to := impatient(f, 0, longest)
+		a, arrived := to.follow(to.take(s), 0)
+		within(t, longest, to.proof)
+		switch {
+		case arrived && a == api.Unsat:
+			count[1]++
+			show(t, f, to.result(a), 9)
+		case !arrived && a == api.Unknown && len(to.levels) == 0:
+			count[0]++
+		default:
+			t.Fatal("the answer is", a, arrived, "at the level", len(to.levels))
+		}
+	}
+	if slices.Min(count[:]) < 50 {
+		t.Error("the formulas say too little: the guides lead to a proof, or not,", count)
+	}
+}
+
+func TestGuide(t *testing.T) {
+	s := start(formula(5))
+	for _, x := range []int{1, -2} {
+		s.assign(literalOf(x), none)
+	}
+	guides := [][]literal{
+		literalsOf([]int{1, 3}),
+		literalsOf([]int{3, 1}),
+		literalsOf([]int{2, -1, 1}),
+		literalsOf([]int{-1, 3, 2, 4}),
+		literalsOf([]int{3, 4, 5}),
+		literalsOf([]int{2, -1, -4}),
+		literalsOf([]int{5}),
+	}
+	for range 2 {
+		if i, l := s.guide(guides); i != 5 || l != literalOf(-4) {
+			t.Error("the guide is", i, "for", l.number())
+		}
+		if i, l := s.guide(guides[6:]); i != 0 || l != literalOf(5) {
+			t.Error("the guide of one literal is", i, "for", l.number())
+		}
+	}
+	for i, want := range []int{2, 2, 2, 2, 2, 1, 1} {
+		if n := s.open(guides[i]); n != want {
+			t.Error("the guide", i, "has", n, "open literals")
+		}
+	}
+	if n := s.open(literalsOf([]int{2, -1})); n != 0 {
+		t.Error("a clause that is false has", n, "open literals")
 	}
 }

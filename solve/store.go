@@ -19,11 +19,11 @@ type ref uint32
 const none ref = 0
 
 // head is how many elements of a pool come before the literals of a clause.
-const head = 2
+const head = 3
 
 // store is clauses of at least two literals each. The first two of each are watched: when one of them becomes false the clause is looked at.
 type store struct {
-	// pool has for each clause how many literals it has, its glue, and them. The glue is of how many levels they were when the clause was learned, or 0 if it is one of the formula: a clause with a small glue is more likely to be of use. (One slice for all of them, because a slice for each one takes longer to go through.)
+	// pool has for each clause how many literals it has, its glue, where the last one was found that could be watched, and its literals. The glue is of how many levels they were when the clause was learned, or 0 if it is one of the formula: a clause with a small glue is more likely to be of use. (One slice for all of them, because a slice for each one takes longer to go through.)
 	pool    []literal
 	pairs   [][]watch // for each literal: the clauses of two literals that it is in
 	watches [][]watch // for each literal: the other clauses in which it is watched
@@ -47,7 +47,7 @@ func emptyStore(n int) store {
 // add adds a clause, and returns its place.
 func (t *store) add(literals []literal, glue int) ref {
 	r := ref(len(t.pool))
-	t.pool = append(t.pool, literal(len(literals)), literal(glue))
+	t.pool = append(t.pool, literal(len(literals)), literal(glue), 2)
 	t.pool = append(t.pool, literals...)
 	lists := t.watches
 	if len(literals) == 2 {
@@ -66,6 +66,11 @@ func (t *store) literals(r ref) []literal {
 
 func (t *store) glueOf(r ref) int {
 	return int(t.pool[r+1])
+}
+
+// found returns where a literal of the clause was found that could be watched.
+func (t *store) found(r ref) *literal {
+	return &t.pool[r+2]
 }
 
 // refs goes through the clauses, from the oldest one on.
