@@ -85,7 +85,7 @@ func (s *solver) implies(c []literal) bool {
 	return is
 }
 
-// follow finds a conflict without any decision, if there would be one with the guides as clauses. A guide of which all literals but one are false says that this one follows; so a decision makes it false, too, which must lead to a conflict. What is learned from that depends on no guide, and has no more literals than there are decisions. false: they are too many.
+// follow finds a conflict without any decision, if there would be one with the guides as clauses. A guide of which all literals but one are false says that this one follows; so a decision makes it false, too, which must lead to a conflict. What is learned from that depends on no guide, and needs no more literals than there are decisions. false: they are too many for a clause of a proof.
 func (s *solver) follow(guides [][]literal, budget int) (uint8, bool) {
 	// For each level: with so many guides, from the first one on, as clauses there would be a conflict. With each decision these are fewer, because a guide is implied by those before it.
 	within := []int{len(guides)}
